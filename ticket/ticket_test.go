@@ -249,7 +249,7 @@ func TestWordsOfNoTicket(t *testing.T) {
 		wants(t, 5, sealed(t, 5, strings.Split(line, " ")), api.ErrText)
 	}
 	for at := 3; at <= 6; at++ {
-		for _, none := range []string{"x", "00", "01", "02", "2x", "x2", "-", "*", "-0", "2-", "1e1", "10000000000", "00000000002", "18446744073709551618", strings.Repeat("9", 20)} {
+		for _, none := range []string{"x", "00", "01", "02", "2x", "x2", "-", "*", "-0", "-1", "2-", "1e1", "10000000000", "00000000002", "18446744073709551618", strings.Repeat("9", 20)} {
 			for _, who := range []string{"ann", "a-b"} {
 				w := []string{"ticket", who, "door", "2", "3", "9", "7"}
 				w[at] = none
