@@ -133,6 +133,9 @@ func TestWordsOfEveryByte(t *testing.T) {
 		one := string([]byte{byte(b)})
 		is := strings.Contains(letters+"-*", one)
 		for _, word := range []string{one, "a" + one, one + "a"} {
+			if seal.Word(word) != is {
+				t.Errorf("Word(%q) is not %v", word, is)
+			}
 			s, err := seal.Make(5, []string{"x", word})
 			if is != (err == nil) || is != (s != "") || !is && !fault(err, 1) {
 				t.Errorf("Make of %q: %q, %v", word, s, err)
@@ -153,7 +156,7 @@ func TestLengths(t *testing.T) {
 	for length := range 30 {
 		word := strings.Repeat("a", length)
 		s, err := seal.Make(5, []string{word})
-		if is := length >= 1 && length <= 20; is != (err == nil) || !is && (s != "" || !fault(err, 0)) {
+		if is := length >= 1 && length <= 20; is != (err == nil) || is != seal.Word(word) || !is && (s != "" || !fault(err, 0)) {
 			t.Errorf("Make of %d letters: %q, %v", length, s, err)
 		}
 		if length > 20 {
