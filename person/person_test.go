@@ -49,6 +49,14 @@ func get(t *testing.T, b *person.Book, name string) api.Person {
 	return p
 }
 
+// raiseTo spares tests of the last epochs the many raises that lead there.
+func raiseTo(t *testing.T, b *person.Book, name string, epoch int) {
+	t.Helper()
+	if n, err := b.RaiseTo(name, epoch); n != epoch || err != nil {
+		t.Fatalf("RaiseTo(%q, %d): %d, %v", name, epoch, n, err)
+	}
+}
+
 // refuses calls, and wants that error itself, and nothing changed.
 func refuses(t *testing.T, b *person.Book, want error, what string, call func() error) {
 	t.Helper()
@@ -273,7 +281,7 @@ func TestRekey(t *testing.T) {
 func TestRekeyErrorsInOrder(t *testing.T) {
 	for _, epoch := range []int{1, api.MaxNum} {
 		b := bookOf(t, "ann", "bob")
-		b.SetEpoch("ann", epoch)
+		raiseTo(t, b, "ann", epoch)
 		for _, name := range append(wrongNames, "cyd", "an", "annn") {
 			for _, key := range append(wrongKeys, 5, 6) {
 				refuses(t, b, api.ErrNone, fmt.Sprintf("Rekey(%q, %d)", name, key), func() error { return b.Rekey(name, key) })
@@ -285,7 +293,7 @@ func TestRekeyErrorsInOrder(t *testing.T) {
 		refuses(t, b, api.ErrExist, "Rekey with the key they have", func() error { return b.Rekey("ann", 5) })
 	}
 	b := bookOf(t, "ann")
-	b.SetEpoch("ann", api.MaxNum)
+	raiseTo(t, b, "ann", api.MaxNum)
 	for _, key := range []int{1, 6, api.MaxKey} {
 		refuses(t, b, api.ErrBound, fmt.Sprintf("Rekey(ann, %d) at MaxNum", key), func() error { return b.Rekey("ann", key) })
 	}
@@ -310,7 +318,7 @@ func TestRaise(t *testing.T) {
 // P31 with P3: with an error no epoch is told.
 func TestRaiseErrors(t *testing.T) {
 	b := bookOf(t, "ann", "bob")
-	b.SetEpoch("ann", api.MaxNum)
+	raiseTo(t, b, "ann", api.MaxNum)
 	raise := func(name string) func() error {
 		return func() error {
 			n, err := b.Raise(name)
@@ -332,8 +340,8 @@ func TestRaiseErrors(t *testing.T) {
 // P31: the last epoch is one that is reached, by both ways that lead there.
 func TestLastEpoch(t *testing.T) {
 	b := bookOf(t, "ann", "bob")
-	b.SetEpoch("ann", api.MaxNum-1)
-	b.SetEpoch("bob", api.MaxNum-1)
+	raiseTo(t, b, "ann", api.MaxNum-1)
+	raiseTo(t, b, "bob", api.MaxNum-1)
 	if n, err := b.Raise("ann"); n != api.MaxNum || err != nil {
 		t.Error(n, err)
 	}
@@ -346,6 +354,49 @@ func TestLastEpoch(t *testing.T) {
 		}
 		if err := b.Off(name, true); err != nil {
 			t.Error("off and on go on", err)
+		}
+	}
+}
+
+// P32: an epoch that is there already, or was passed, stays; and nothing else of them changes, and nobody else.
+func TestRaiseTo(t *testing.T) {
+	b := bookOf(t, "ann", "bob")
+	if err := b.Off("ann", true); err != nil {
+		t.Error(err)
+	}
+	epoch := 1
+	for _, to := range []int{1, 0, math.MinInt, -1, 2, 1, 7, 7, 6, 8, 9000, 8999, api.MaxNum - 1, api.MaxNum, api.MaxNum, 1, math.MinInt} {
+		epoch = max(epoch, to)
+		if n, err := b.RaiseTo("ann", to); n != epoch || err != nil {
+			t.Errorf("RaiseTo(ann, %d): %d, %v, not %d", to, n, err, epoch)
+		}
+		if s := fmt.Sprint(b.All()); s != fmt.Sprintf("[{ann 5 %d true} {bob 5 1 false}]", epoch) {
+			t.Error(s)
+		}
+	}
+}
+
+// P32 with P3: of who is not there, and above the last epoch, with no epoch told.
+func TestRaiseToErrors(t *testing.T) {
+	b := bookOf(t, "ann", "bob")
+	raiseTo(t, b, "bob", api.MaxNum)
+	to := func(name string, epoch int) func() error {
+		return func() error {
+			n, err := b.RaiseTo(name, epoch)
+			if n != 0 {
+				t.Errorf("RaiseTo(%.20q, %d): %d", name, epoch, n)
+			}
+			return err
+		}
+	}
+	for _, epoch := range []int{math.MinInt, 0, 1, api.MaxNum, api.MaxNum + 1, math.MaxInt} {
+		for _, name := range append(wrongNames, "cyd", "an", "annn") {
+			refuses(t, b, api.ErrNone, fmt.Sprintf("RaiseTo(%q, %d)", name, epoch), to(name, epoch))
+		}
+		if epoch > api.MaxNum {
+			for _, name := range []string{"ann", "bob"} {
+				refuses(t, b, api.ErrBound, fmt.Sprintf("RaiseTo(%q, %d)", name, epoch), to(name, epoch))
+			}
 		}
 	}
 }
@@ -430,6 +481,18 @@ func (s *slow) raise(name string) (int, error) {
 	return p.Epoch, nil
 }
 
+func (s *slow) raiseTo(name string, epoch int) (int, error) {
+	p := s.find(name)
+	switch {
+	case p == nil:
+		return 0, api.ErrNone
+	case epoch > 1<<30:
+		return 0, api.ErrBound
+	}
+	p.Epoch = max(p.Epoch, epoch)
+	return p.Epoch, nil
+}
+
 func (s *slow) off(name string, off bool) error {
 	p := s.find(name)
 	switch {
@@ -463,23 +526,25 @@ func step(t *testing.T, b *person.Book, s *slow, what, who, with byte) {
 	case 3:
 		err, want = b.Off(name, with%2 == 0), s.off(name, with%2 == 0)
 	case 4:
-		if p := s.find(name); p != nil && with == 7 {
-			p.Epoch = api.MaxNum
-			b.SetEpoch(name, api.MaxNum)
+		to := []int{0, 1, 2, 3, 9, api.MaxNum - 1, api.MaxNum, api.MaxNum + 1}[with%8]
+		if with >= 64 {
+			to = int(with % 8)
 		}
+		n, err = b.RaiseTo(name, to)
+		wantN, want = s.raiseTo(name, to)
 	}
 	if err != want || n != wantN {
 		t.Fatalf("%d %s %d: %d, %v, not %d, %v", what%5, name, key, n, err, wantN, want)
 	}
 }
 
-// epochsRise wants that nobody has gone, and no epoch fallen, nor risen by more than 1 but to the last one.
-func epochsRise(t *testing.T, before, after []api.Person) {
+// epochsRise wants that nobody has gone, and no epoch fallen, nor, but where one was told, risen by more than 1.
+func epochsRise(t *testing.T, told bool, before, after []api.Person) {
 	t.Helper()
 	now := slow(after)
 	for _, p := range before {
 		q := now.find(p.Name)
-		if q == nil || q.Epoch < p.Epoch || q.Epoch > p.Epoch+1 && q.Epoch != api.MaxNum {
+		if q == nil || q.Epoch < p.Epoch || q.Epoch > p.Epoch+1 && !told {
 			t.Fatalf("%v was %v", q, p)
 		}
 		if q.Key != p.Key && q.Epoch != p.Epoch+1 {
@@ -498,7 +563,7 @@ func walk(t *testing.T, steps []byte) {
 		if !slices.Equal(after, s) {
 			t.Fatalf("%v, not %v", after, s)
 		}
-		epochsRise(t, before, after)
+		epochsRise(t, steps[0]%5 == 4, before, after)
 		for _, p := range after {
 			if got := get(t, b, p.Name); got != p || person.Check(p) != nil {
 				t.Fatal(got, p)
