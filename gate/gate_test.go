@@ -728,6 +728,33 @@ func TestGatesAreTheirOwn(t *testing.T) {
 	}
 }
 
+// A copy is as the gate was; what is done to one is not done to the other.
+func TestCopy(t *testing.T) {
+	a := newDoor(t)
+	fresh := *a
+	fresh.gate = a.gate.Copy()
+	fresh.check("of a new one")
+	a.takes(head(t, tale()[:1], 9), 9, tale()[:1])
+	fresh.check("a head of the other one's")
+	b := *a
+	b.gate = a.gate.Copy()
+	b.check("copied")
+	b.takes(head(t, tale(), 12), 12, tale()[1:])
+	a.check("a head of the copy's")
+	b.rekeys(own + 1)
+	a.takes(head(t, tale()[:1], 15), 15, nil)
+	for _, p := range []*pair{a, &b, &fresh} {
+		p.check("copies")
+		for _, key := range []int{own, own + 1} {
+			for epoch := 1; epoch < 5; epoch++ {
+				for _, now := range []int{9, 12 + old, 12 + old + 1, 15 + old, 15 + old + 1} {
+					p.asks(key, pass("bob", epoch, 0, 90), now)
+				}
+			}
+		}
+	}
+}
+
 // P92: of a full feed, person by person, epoch by epoch, entry by entry; and once the head is old nothing at all passes.
 func TestBelowAFloorNothingPasses(t *testing.T) {
 	l := long(most)

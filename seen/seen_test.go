@@ -441,6 +441,23 @@ func TestTheyAreTheirOwn(t *testing.T) {
 	long.answers("a", 10, 61, api.ErrLate)
 }
 
+// A copy is as the other one was; what comes to one does not come to the other, nor does it go there.
+func TestCopy(t *testing.T) {
+	a := having(t, 5, 10, "a", "b")
+	b := &pair{t, a.seen.Copy(), a.long, slices.Clone(a.want)}
+	b.check("copied")
+	b.answers("c", 11, 11, nil)
+	a.check("a word of the copy's")
+	a.answers("c", 12, 12, nil)
+	a.answers("d", 16, 16, nil)
+	b.check("a word of the other one's")
+	b.answers("a", 10, 12, api.ErrExist)
+	b.answers("c", 16, 17, nil)
+	a.answers("c", 12, 17, api.ErrExist)
+	b.answers("e", 23, 17, api.ErrEarly)
+	b.answers("e", 22, 17, nil)
+}
+
 // P101: at each now from the first at which it may come to the last, tick by tick, it passes the first time alone.
 func TestPassesOnce(t *testing.T) {
 	for _, long := range []int{0, 1, 2, 5, 20} {

@@ -566,6 +566,32 @@ func TestRecover(t *testing.T) {
 	}
 }
 
+// Mend takes torn bytes away, and no record; power is as it was, and a Cut waits on.
+func TestMend(t *testing.T) {
+	for torn := range 10 {
+		p := newPair(t, "1:a\n.2:bc\n.")
+		p.cuts(torn, nil)
+		p.answers("tick 33", api.ErrOff)
+		for _, on := range []bool{false, true} {
+			if on {
+				p.on()
+				p.cuts(4, nil)
+			}
+			want, n := slow(string(p.bytes))
+			if l := p.disk.Mend(); !slices.Equal(l, want) {
+				t.Errorf("Mend: %q, not %q", l, want)
+			}
+			p.bytes = p.bytes[:n]
+			p.check("Mend")
+		}
+		p.answers("", nil)
+		p.answers("", api.ErrOff)
+		if l := p.recovers(); !slices.Equal(l, []string{"a", "bc", ""}) {
+			t.Errorf("%q", l)
+		}
+	}
+}
+
 // P132: at each byte of several tapes, and behind that, and again while what failed is told again.
 func TestWhatIsRecovered(t *testing.T) {
 	for _, list := range [][]string{nil, {""}, {"", "", ""}, texts, {"a", "1:a\n.", "\n.\n."}, {"2:", "0:\n.0:\n.", "0", "\n", "."}, {strings.Repeat("x", 1200), "a"}} {
